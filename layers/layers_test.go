@@ -66,7 +66,7 @@ func TestLayersImportLowerLayersOnly(t *testing.T) {
 
 // The chapters of these layers let them import api and nothing else.
 func TestLayersThatImportAPIOnly(t *testing.T) {
-	for _, layer := range []string{"intn", "varint"} {
+	for _, layer := range []string{"intn", "varint", "intern"} {
 		for _, path := range imports(t, layer) {
 			if path != "burnish/api" {
 				t.Errorf("%s imports %s", layer, path)
