@@ -66,11 +66,21 @@ func TestLayersImportLowerLayersOnly(t *testing.T) {
 
 // The chapters of these layers let them import api and nothing else.
 func TestLayersThatImportAPIOnly(t *testing.T) {
-	for _, layer := range []string{"intn", "varint", "intern"} {
+	for _, layer := range []string{"intn", "varint", "intern", "worklist"} {
 		for _, path := range imports(t, layer) {
 			if path != "burnish/api" {
 				t.Errorf("%s imports %s", layer, path)
 			}
+		}
+	}
+}
+
+// The chapter of digraph names the packages of the project that it imports.
+func TestDigraphImportsBitsetOnly(t *testing.T) {
+	for _, path := range imports(t, "digraph") {
+		own, ofProject := strings.CutPrefix(path, "burnish/")
+		if ofProject && own != "api" && own != "bitset" {
+			t.Errorf("digraph imports %s", path)
 		}
 	}
 }
