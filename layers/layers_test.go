@@ -75,12 +75,18 @@ func TestLayersThatImportAPIOnly(t *testing.T) {
 	}
 }
 
-// The chapter of digraph names the packages of the project that it imports.
-func TestDigraphImportsBitsetOnly(t *testing.T) {
-	for _, path := range imports(t, "digraph") {
-		own, ofProject := strings.CutPrefix(path, "burnish/")
-		if ofProject && own != "api" && own != "bitset" {
-			t.Errorf("digraph imports %s", path)
+// The chapters of these layers name the packages of the project that they import, beside api.
+func TestLayersThatNameTheirImports(t *testing.T) {
+	for layer, named := range map[string][]string{
+		"digraph": {"bitset"},
+		"scc":     {"digraph"},
+		"domtree": {"digraph", "worklist"},
+	} {
+		for _, path := range imports(t, layer) {
+			own, ofProject := strings.CutPrefix(path, "burnish/")
+			if ofProject && own != "api" && !slices.Contains(named, own) {
+				t.Errorf("%s imports %s", layer, path)
+			}
 		}
 	}
 }
