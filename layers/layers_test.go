@@ -78,9 +78,11 @@ func TestLayersThatImportAPIOnly(t *testing.T) {
 // The chapters of these layers name the packages of the project that they import, beside api.
 func TestLayersThatNameTheirImports(t *testing.T) {
 	for layer, named := range map[string][]string{
-		"digraph": {"bitset"},
-		"scc":     {"digraph"},
-		"domtree": {"digraph", "worklist"},
+		"digraph":     {"bitset"},
+		"scc":         {"digraph"},
+		"domtree":     {"digraph", "worklist"},
+		"domfrontier": {"bitset", "digraph", "domtree"},
+		"loopinfo":    {"digraph", "domtree"},
 	} {
 		for _, path := range imports(t, layer) {
 			own, ofProject := strings.CutPrefix(path, "burnish/")
