@@ -83,6 +83,8 @@ func TestLayersThatNameTheirImports(t *testing.T) {
 		"domtree":     {"digraph", "worklist"},
 		"domfrontier": {"bitset", "digraph", "domtree"},
 		"loopinfo":    {"digraph", "domtree"},
+		"value":       {"intn"},
+		"opcode":      {"intn"},
 	} {
 		for _, path := range imports(t, layer) {
 			own, ofProject := strings.CutPrefix(path, "burnish/")
