@@ -66,7 +66,7 @@ func TestLayersImportLowerLayersOnly(t *testing.T) {
 
 // The chapters of these layers let them import api and nothing else.
 func TestLayersThatImportAPIOnly(t *testing.T) {
-	for _, layer := range []string{"intn", "varint", "intern", "worklist"} {
+	for _, layer := range []string{"intn", "varint", "intern", "worklist", "lexer"} {
 		for _, path := range imports(t, layer) {
 			if path != "burnish/api" {
 				t.Errorf("%s imports %s", layer, path)
@@ -85,6 +85,7 @@ func TestLayersThatNameTheirImports(t *testing.T) {
 		"loopinfo":    {"digraph", "domtree"},
 		"value":       {"intn"},
 		"opcode":      {"intn"},
+		"verify":      {"intn", "opcode", "lexer"},
 	} {
 		for _, path := range imports(t, layer) {
 			own, ofProject := strings.CutPrefix(path, "burnish/")
