@@ -86,6 +86,8 @@ func TestLayersThatNameTheirImports(t *testing.T) {
 		"value":       {"intn"},
 		"opcode":      {"intn"},
 		"verify":      {"intn", "opcode", "lexer"},
+		"printer":     {"opcode", "lexer", "verify"},
+		"parser":      {"opcode", "lexer", "verify", "printer"},
 	} {
 		for _, path := range imports(t, layer) {
 			own, ofProject := strings.CutPrefix(path, "burnish/")
