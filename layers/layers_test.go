@@ -88,6 +88,8 @@ func TestLayersThatNameTheirImports(t *testing.T) {
 		"verify":      {"intn", "opcode", "lexer"},
 		"printer":     {"opcode", "lexer", "verify"},
 		"parser":      {"opcode", "lexer", "verify", "printer"},
+		"memory":      {"value", "opcode", "verify"},
+		"interp":      {"value", "opcode", "verify", "memory"},
 	} {
 		for _, path := range imports(t, layer) {
 			own, ofProject := strings.CutPrefix(path, "burnish/")
