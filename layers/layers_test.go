@@ -66,7 +66,7 @@ func TestLayersImportLowerLayersOnly(t *testing.T) {
 
 // The chapters of these layers let them import api and nothing else.
 func TestLayersThatImportAPIOnly(t *testing.T) {
-	for _, layer := range []string{"intn", "varint", "intern", "worklist", "lexer"} {
+	for _, layer := range []string{"intn", "varint", "intern", "worklist", "lexer", "cfg"} {
 		for _, path := range imports(t, layer) {
 			if path != "burnish/api" {
 				t.Errorf("%s imports %s", layer, path)
@@ -90,6 +90,7 @@ func TestLayersThatNameTheirImports(t *testing.T) {
 		"parser":      {"opcode", "lexer", "verify", "printer"},
 		"memory":      {"value", "opcode", "verify"},
 		"interp":      {"value", "opcode", "verify", "memory"},
+		"refine":      {"value", "verify"},
 	} {
 		for _, path := range imports(t, layer) {
 			own, ofProject := strings.CutPrefix(path, "burnish/")
