@@ -91,6 +91,8 @@ func TestLayersThatNameTheirImports(t *testing.T) {
 		"memory":      {"value", "opcode", "verify"},
 		"interp":      {"value", "opcode", "verify", "memory"},
 		"refine":      {"value", "verify"},
+		"liveness":    {"bitset", "worklist", "cfg"},
+		"ssaform":     {"digraph", "domtree", "cfg"},
 	} {
 		for _, path := range imports(t, layer) {
 			own, ofProject := strings.CutPrefix(path, "burnish/")
