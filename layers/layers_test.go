@@ -93,6 +93,8 @@ func TestLayersThatNameTheirImports(t *testing.T) {
 		"refine":      {"value", "verify"},
 		"liveness":    {"bitset", "worklist", "cfg"},
 		"ssaform":     {"digraph", "domtree", "cfg"},
+		"expr":        {"opcode"},
+		"witness":     {"varint", "domtree", "verify", "cfg", "liveness", "expr"},
 	} {
 		for _, path := range imports(t, layer) {
 			own, ofProject := strings.CutPrefix(path, "burnish/")
